@@ -75,7 +75,8 @@ func kinds() map[string]kind {
 		"chan":   {channel, []part{head, variable, lock, channel}, "k", addChan},
 		"func": {function, []part{head, variable, lock, channel, function, choice, branch, instruction},
 			"kk", addFunc},
-		"choose": {choice, []part{function, branch}, "e", addSelect},
+		// A choose without cases is left to prog.Check: one more choose may stand behind it.
+		"choose": {choice, []part{function, choice, branch}, "e", addSelect},
 		"onsend": {branch, []part{choice, branch}, "crt", addSend},
 		"onrecv": {branch, []part{choice, branch}, "cot", addRecv},
 	}

@@ -60,6 +60,7 @@ func TestParseOrder(t *testing.T) {
 	all := []string{"scarab", "var 1", "atomic 1", "mutex", "chan 1", "func 0 1", "choose _", "choose @0",
 		"onsend c0 r0 @0", "onrecv c0 _ @0", "yield", "neg r0 r0", "max r0 r0 r0", "const r0 1", "end", "note r0 1"}
 	instructions := all[10:]
+	selects := append([]string{"func 0 1", "choose _", "choose @0", "onsend c0 r0 @0", "onrecv c0 _ @0"}, instructions...)
 	const main = "scarab\nchan 1\nfunc 0 1\n"
 	for _, c := range []struct {
 		ahead string
@@ -76,10 +77,13 @@ func TestParseOrder(t *testing.T) {
 		{"scarab\nchan 1\n", []string{"chan 1", "func 0 1"}},
 		{"scarab\nmutex\nchan 1\n", []string{"chan 1", "func 0 1"}},
 		{main, append([]string{"func 0 1", "choose _", "choose @0"}, instructions...)},
-		{main + "choose _\n", append([]string{"func 0 1", "onsend c0 r0 @0", "onrecv c0 _ @0"}, instructions...)},
-		{main + "choose @0\n\n", append([]string{"func 0 1", "onsend c0 r0 @0", "onrecv c0 _ @0"}, instructions...)},
-		{main + "choose _\nonsend c0 r0 @0\n", append([]string{"func 0 1", "choose _", "choose @0", "onsend c0 r0 @0", "onrecv c0 _ @0"}, instructions...)},
-		{main + "choose _\nonrecv c0 _ @0\n", append([]string{"func 0 1", "choose _", "choose @0", "onsend c0 r0 @0", "onrecv c0 _ @0"}, instructions...)},
+		{main + "choose _\n", selects},
+		{main + "choose @0\n\n", selects},
+		{main + "choose _\nchoose @0\n", selects},
+		{main + "choose _\nonrecv c0 _ @0\nchoose _\nchoose _\n", selects},
+		{main + "choose _\nchoose _\nyield\n", append([]string{"func 0 1"}, instructions...)},
+		{main + "choose _\nonsend c0 r0 @0\n", selects},
+		{main + "choose _\nonrecv c0 _ @0\n", selects},
 		{main + "yield\n", append([]string{"func 0 1"}, instructions...)},
 		{main + "end\n", append([]string{"func 0 1"}, instructions...)},
 		{main + "choose _\nyield\n", append([]string{"func 0 1"}, instructions...)},
@@ -99,6 +103,21 @@ func TestParseOrder(t *testing.T) {
 			refused(t, c.ahead+line+" ? ? ? ? ?\n?", api.ErrOrder, n)
 		}
 	}
+}
+
+// 5.3: a choose behind one without cases may stand there: its words are looked at, and behind the last line the program.
+func TestParseChooseBehindChoose(t *testing.T) {
+	const ahead = "scarab\nchan 1\nfunc 0 1\nchoose _\n"
+	refused(t, ahead+"choose", api.ErrLine, 5)
+	refused(t, ahead+"choose _ _", api.ErrLine, 5)
+	refused(t, ahead+"choose 0", api.ErrWord, 5)
+	refused(t, ahead+"choose @x", api.ErrNumber, 5)
+	refused(t, ahead+"choose _\nend", api.ErrFunc, 0)
+	refused(t, ahead+"choose @0\nonrecv c0 r0 @0\nend", api.ErrFunc, 0)
+	refused(t, ahead+"onrecv c0 r0 @0\nchoose _\nchoose _\nonrecv c0 r0 @0\nend", api.ErrFunc, 0)
+	refused(t, ahead+"choose _\nend\nchoose _", api.ErrOrder, 7)
+	refused(t, ahead+"choose _\nend\nonrecv c0 r0 @0", api.ErrOrder, 7)
+	refused(t, "scarab\nchan 1\nchoose _\nchoose _", api.ErrOrder, 3)
 }
 
 // 5.3: too few and too many words, told ahead of what is wrong with them.
