@@ -26,8 +26,8 @@ func (d *dice) below(n int) int { return int(d.roll() % uint64(n)) }
 // upTo is a number from 0 to n.
 func (d *dice) upTo(n int) int { return d.below(n + 1) }
 
-// number is any number, more often one at an edge of its bytes than not.
-func (d *dice) number() int64 {
+// any is any number, more often one at an edge of its bytes than not.
+func (d *dice) any() int64 {
 	edges := [...]int64{0, 1, -1, 63, 64, -64, -65, math.MaxInt32, math.MaxInt64, math.MinInt64}
 	if d.below(3) == 0 {
 		return int64(d.roll())
@@ -35,10 +35,19 @@ func (d *dice) number() int64 {
 	return edges[d.below(len(edges))]
 }
 
-// maker makes one program.
+// maker makes one program; its numbers are from 0 to most, or any, if that is 0.
 type maker struct {
 	dice
-	p api.Prog
+	p    api.Prog
+	most int
+}
+
+// number is a number that stands in the program.
+func (m *maker) number() int64 {
+	if m.most > 0 {
+		return int64(m.upTo(m.most))
+	}
+	return m.any()
 }
 
 // Prog is a right program: any number of everything that it may have, any operations.

@@ -30,3 +30,57 @@ func TestProg(t *testing.T) {
 		}
 	}
 }
+
+// Small samples are right, hang on their seed alone, and have every visible operation among them.
+func TestSmall(t *testing.T) {
+	seen := map[api.Op]int{}
+	for seed := range uint64(200) {
+		p := Small(seed)
+		if e, at := prog.Check(p); e != api.OK {
+			t.Fatalf("seed %d: %v at %v", seed, e, at)
+		}
+		if !prog.Same(p, Small(seed)) {
+			t.Errorf("seed %d is not told the same twice", seed)
+		}
+		for _, fn := range p.Funcs {
+			for _, in := range fn.Code {
+				seen[in.Op]++
+			}
+		}
+	}
+	for op := range api.OpTaken {
+		if prog.Visible(op) && seen[op] == 0 {
+			t.Errorf("no small sample has the operation %d", op)
+		}
+	}
+}
+
+// States hang on their program and seed alone; goroutines are in them as they may be, and offers too. (That they are
+// states of their programs, the tests of package state ask.)
+func TestState(t *testing.T) {
+	var status [api.GoSpun + 1]int
+	var offers [api.OfferLost + 1]int
+	for seed := range uint64(2000) {
+		p := Small(seed)
+		s := State(p, seed)
+		if s != State(p, seed) {
+			t.Errorf("seed %d is not told the same twice", seed)
+		}
+		for _, it := range s.Gos {
+			status[it.Status]++
+		}
+		for n := range p.Chans {
+			offers[s.Chans[n].Offer]++
+		}
+	}
+	for k, n := range status {
+		if n == 0 {
+			t.Errorf("no goroutine has the status %d", k)
+		}
+	}
+	for k, n := range offers {
+		if n == 0 {
+			t.Errorf("no channel has the offer %d", k)
+		}
+	}
+}
