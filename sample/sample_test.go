@@ -1,6 +1,7 @@
 package sample
 
 import (
+	"slices"
 	"testing"
 
 	"scarab/api"
@@ -81,6 +82,43 @@ func TestState(t *testing.T) {
 	for k, n := range offers {
 		if n == 0 {
 			t.Errorf("no channel has the offer %d", k)
+		}
+	}
+}
+
+// Choices and traces hang on what is asked for alone, and have as many members; among the events there are such of
+// every goroutine, with objects of every kind. (That they are traces, the tests of package depend ask.)
+func TestTrace(t *testing.T) {
+	var gos [api.MaxGos]int
+	var kinds [api.ObNotes + 1][2]int
+	for seed := range uint64(300) {
+		n := int(seed % 40)
+		if l := Choices(seed, n); len(l) != n || !slices.Equal(l, Choices(seed, n)) {
+			t.Errorf("seed %d: choices %v", seed, l)
+		}
+		l := Trace(seed, n)
+		if len(l) != n || !slices.Equal(l, Trace(seed, n)) {
+			t.Errorf("seed %d: events %v", seed, l)
+		}
+		for _, x := range l {
+			gos[x.Go]++
+			for _, a := range x.Touch[:x.Touches] {
+				if a.Write {
+					kinds[a.Kind][1]++
+				} else {
+					kinds[a.Kind][0]++
+				}
+			}
+		}
+	}
+	for g, n := range gos {
+		if n == 0 {
+			t.Errorf("no event is of the goroutine %d", g)
+		}
+	}
+	for k, n := range kinds[1:] {
+		if n[0] == 0 || n[1] == 0 {
+			t.Errorf("of the kind %d %d are read, %d written", k+1, n[0], n[1])
 		}
 	}
 }
