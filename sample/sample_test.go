@@ -56,6 +56,38 @@ func TestSmall(t *testing.T) {
 	}
 }
 
+// Racy samples are right, hang on their seed alone, and have plain and atomic variables, loads, stores and locks among
+// them.
+func TestRacy(t *testing.T) {
+	seen := map[api.Op]int{}
+	vars := map[bool]int{}
+	for seed := range uint64(200) {
+		p := Racy(seed)
+		if e, at := prog.Check(p); e != api.OK {
+			t.Fatalf("seed %d: %v at %v", seed, e, at)
+		}
+		if !prog.Same(p, Racy(seed)) {
+			t.Errorf("seed %d is not told the same twice", seed)
+		}
+		for _, x := range p.Vars {
+			vars[x.Atomic]++
+		}
+		for _, fn := range p.Funcs {
+			for _, in := range fn.Code {
+				seen[in.Op]++
+			}
+		}
+	}
+	if vars[true] == 0 || vars[false] == 0 {
+		t.Errorf("variables: %v", vars)
+	}
+	for _, op := range []api.Op{api.OpLoad, api.OpStore, api.OpLock, api.OpUnlock, api.OpTry, api.OpSend, api.OpRecv, api.OpSpawn} {
+		if seen[op] == 0 {
+			t.Errorf("no racy sample has the operation %d", op)
+		}
+	}
+}
+
 // States hang on their program and seed alone; goroutines are in them as they may be, and offers too. (That they are
 // states of their programs, the tests of package state ask.)
 func TestState(t *testing.T) {
