@@ -1,5 +1,6 @@
 // Package doze is the search with sleeping goroutines that sleep and persist share: one goes through all goroutines that
-// are ready, the other one through some of them. It calls nothing but what both of them may call.
+// are ready, the other one through some of them. Its sets, and what it tells of next steps, are dpor's too. It calls
+// nothing but what all of them may call.
 package doze
 
 import (

@@ -42,7 +42,7 @@ func (x search) behind(at place) bool {
 	if len(ready) == 0 {
 		return x.tell(at, isRun)
 	}
-	open := picked(ready)
+	open := Picked(ready)
 	some := open & x.among(at.state, open)
 	if some&^at.asleep == 0 {
 		return x.tell(at, isGiven)
@@ -50,7 +50,7 @@ func (x search) behind(at place) bool {
 	if len(at.picks) == x.b.Steps {
 		return x.tell(at, isCut)
 	}
-	clash := Clashes(x.p, at.state, some|at.asleep)
+	clash := Clashes(Touches(x.p, at.state, some|at.asleep))
 	for _, pick := range ready {
 		if !some.Has(pick.Go) || at.asleep.Has(pick.Go) {
 			continue
@@ -64,13 +64,20 @@ func (x search) behind(at place) bool {
 	return true
 }
 
-// Clashes tells, of each of some live goroutines, those of them whose next steps are not independent of its own.
-func Clashes(p api.Prog, s api.State, some Set) [api.MaxGos]Set {
+// Touches is what the next steps of some live goroutines of a state touch; nothing of the others.
+func Touches(p api.Prog, s api.State, some Set) [api.MaxGos][]api.Access {
 	var touch [api.MaxGos][]api.Access
-	var clash [api.MaxGos]Set
 	for g := range some.Each() {
 		touch[g], _ = step.Touch(p, s, g)
-		for h := range some.Below(g + 1).Each() {
+	}
+	return touch
+}
+
+// Clashes tells, of what the next step of each goroutine touches, those whose next steps are not independent of its own.
+func Clashes(touch [api.MaxGos][]api.Access) [api.MaxGos]Set {
+	var clash [api.MaxGos]Set
+	for g := range touch {
+		for h := range g + 1 {
 			if depend.Clash(touch[g], touch[h]) {
 				clash[g] |= One(h)
 				clash[h] |= One(g)

@@ -11,8 +11,8 @@ import (
 	"scarab/step"
 )
 
-// Two next steps clash, if they touch an object that one of both writes; each clashes with itself; of others than those
-// that are asked for nothing is told.
+// What next steps touch is step.Touch's; two clash, if they touch an object that one of both writes; each clashes with
+// itself; of others than those that are asked for nothing is told.
 func TestClashes(t *testing.T) {
 	told := 0
 	for seed := range uint64(200) {
@@ -24,8 +24,13 @@ func TestClashes(t *testing.T) {
 				some |= One(g)
 			}
 		}
-		clash := Clashes(p, s, some)
+		touch := Touches(p, s, some)
+		clash := Clashes(touch)
 		for g := range api.MaxGos {
+			want, _ := step.Touch(p, s, g)
+			if some.Has(g) && !slices.Equal(touch[g], want) || !some.Has(g) && len(touch[g]) > 0 {
+				t.Errorf("seed %d: %d touches %v", seed, g, touch[g])
+			}
 			for h := range api.MaxGos {
 				want := some.Has(g) && some.Has(h) && meets(t, p, s, g, h)
 				if clash[g].Has(h) != want {

@@ -20,6 +20,9 @@ func (s Set) Has(g int) bool { return s>>g&1 == 1 }
 // Below are the members that are less than a goroutine.
 func (s Set) Below(g int) Set { return s & (One(g) - 1) }
 
+// Least is the least member of a set that has one.
+func (s Set) Least() int { return bits.TrailingZeros(uint(s)) }
+
 // Len is how many members there are.
 func (s Set) Len() int { return bits.OnesCount(uint(s)) }
 
@@ -37,11 +40,11 @@ func (s Set) Each() iter.Seq[int] {
 // Ready are the goroutines that have a ready pick in a state.
 func Ready(p api.Prog, s api.State) (Set, api.Errno) {
 	picks, e := step.Ready(p, s)
-	return picked(picks), e
+	return Picked(picks), e
 }
 
-// picked are the goroutines of picks.
-func picked(picks []api.Pick) Set {
+// Picked are the goroutines of picks, none of which is out of range.
+func Picked(picks []api.Pick) Set {
 	var set Set
 	for _, pick := range picks {
 		set |= One(pick.Go)

@@ -29,6 +29,9 @@ func TestSet(t *testing.T) {
 				t.Errorf("%v at %d: %v, %v", l, g, s.Has(g), slices.Collect(s.Below(g).Each()))
 			}
 		}
+		if len(l) > 0 && s.Least() != l[0] {
+			t.Errorf("%v: the least is %d", l, s.Least())
+		}
 		for g := range s.Each() { // it may be left early
 			if g != l[0] {
 				t.Errorf("%v begins with %d", l, g)
